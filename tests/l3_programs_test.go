@@ -1106,6 +1106,31 @@ func memoryOf(v reflect.Value, add func(from uintptr, to uintptr)) {
 	}
 }
 
+// memoryIn are the places of all lists of values, as pairs of a first place and the one behind, ascending.
+func memoryIn(list ...any) [][2]uintptr {
+	var memory [][2]uintptr
+	for _, v := range list {
+		memoryOf(reflect.ValueOf(v), func(from uintptr, to uintptr) {
+			if from < to {
+				memory = append(memory, [2]uintptr{from, to})
+			}
+		})
+	}
+	slices.SortFunc(memory, func(a, b [2]uintptr) int { return int(a[0]) - int(b[0]) })
+	return memory
+}
+
+// shareMemory tells whether two lists that are in these values have memory in common.
+func shareMemory(list ...any) bool {
+	memory := memoryIn(list...)
+	for i := 1; i < len(memory); i++ {
+		if memory[i][0] < memory[i-1][1] {
+			return true
+		}
+	}
+	return false
+}
+
 func TestProgramResultsAreTheirOwn(t *testing.T) {
 	texts := someTexts()
 	for _, s := range texts {
@@ -1114,19 +1139,8 @@ func TestProgramResultsAreTheirOwn(t *testing.T) {
 		if !ok {
 			t.Fatalf("ReadProgram(%q) is false", s)
 		}
-		var memory [][2]uintptr
-		for _, v := range []impl.Program{p, again} {
-			memoryOf(reflect.ValueOf(v), func(from uintptr, to uintptr) {
-				if from < to {
-					memory = append(memory, [2]uintptr{from, to})
-				}
-			})
-		}
-		slices.SortFunc(memory, func(a, b [2]uintptr) int { return int(a[0]) - int(b[0]) })
-		for i := 1; i < len(memory); i++ {
-			if memory[i][0] < memory[i-1][1] {
-				t.Errorf("lists of the program of %q share memory", s)
-			}
+		if shareMemory(p, again) {
+			t.Errorf("lists of the program of %q share memory", s)
 		}
 		want := plainProgram(p)
 		for i := range p.Fns {
