@@ -318,7 +318,8 @@ func checkRenamed(t *testing.T, p impl.Program, want *scan) {
 // maker makes random programs with which little is wrong, or nothing.
 type maker struct {
 	rnd    *rand.Rand
-	wrong  int // one in so many names is any one; 0 if none is
+	wrong  int  // one in so many names is any one; 0 if none is
+	calm   bool // most numbers are small then, and most loops count down
 	fns    []impl.Fn
 	blocks [][]string
 	left   int
@@ -364,7 +365,7 @@ func (m *maker) expr(deep int) impl.Expr {
 		if s, ok := m.used(); ok && m.rnd.Intn(4) > 0 {
 			return variable(s)
 		}
-		return num(m.rnd.Intn(256))
+		return num(m.number())
 	}
 	switch o := 3 + m.rnd.Intn(12); {
 	case o > 12:
@@ -377,6 +378,13 @@ func (m *maker) expr(deep int) impl.Expr {
 	default:
 		return op(o, m.expr(deep-1), m.expr(deep-1))
 	}
+}
+
+func (m *maker) number() int {
+	if m.calm && m.rnd.Intn(8) > 0 {
+		return m.rnd.Intn(5)
+	}
+	return m.rnd.Intn(256)
 }
 
 func (m *maker) call(deep int) (impl.Expr, bool) {
@@ -436,6 +444,10 @@ func (m *maker) stmt(nest int) (impl.Stmt, bool) {
 	case 5:
 		return when(e, m.block(nest+1), m.block(nest+1)), true
 	case 6:
+		if s, ok := m.used(); ok && m.calm && m.left > 0 {
+			m.left--
+			return loop(variable(s), append(block(set(s, minus(variable(s), num(1)))), m.block(nest+1)...)...), nest < 4
+		}
 		return loop(e, m.block(nest+1)...), true
 	case 7:
 		return back(e), true
