@@ -1054,8 +1054,8 @@ func TestTightUnits(t *testing.T) {
 	checkUnit(t, unitOf(many+"; back r150"))
 }
 
-// TestUnitsThatAreWrong has units that are not valid, of which each function returns what is told for them.
-func TestUnitsThatAreWrong(t *testing.T) {
+// wrongUnits are units that are not valid: 15 small ones, and then great ones.
+func wrongUnits() []impl.Unit {
 	units := []impl.Unit{{}, {Codes: []impl.Code{}}, {Codes: []impl.Code{{}}}, {Codes: make([]impl.Code, 5)}, {Codes: make([]impl.Code, 300000)}, {Codes: []impl.Code{{Regs: 1, Blocks: []impl.Block{{}}}}}, {Codes: []impl.Code{{Regs: 1, Blocks: make([]impl.Block, 161)}}}}
 	for _, s := range []string{"code 0 0; 0:; back r0", "code 0 1; 0:; go 0", "code 0 1; 0:; back r0; code 4 5; 0:; back r0", "code 0 1; 0:; r0 = call 0; back r0", "code 0 1; 0:; say r1; back r0", "code 0 1; 0:; r0 = phi; back r0", "code 0 1; 0:; r0 = num 256; back r0", "code 0 1; 0:; go 1"} {
 		units = append(units, unitOf(s))
@@ -1064,7 +1064,12 @@ func TestUnitsThatAreWrong(t *testing.T) {
 	for _, x := range []impl.Block{{Jump: 3, Ins: make([]impl.Ins, 1000000)}, {Jump: 3, Phis: make([]impl.Phi, 1000000)}, {Jump: 2, Next: great}, {Jump: 1, Next: great}, {Jump: 3, Next: great}, {Jump: 3, Ins: []impl.Ins{{Op: 3, Args: great}}}, {Jump: 3, Ins: []impl.Ins{{Op: 14, Args: great}}}, {Jump: 3, Phis: []impl.Phi{{Args: great}}}} {
 		units = append(units, impl.Unit{Codes: []impl.Code{{Regs: 1, Blocks: []impl.Block{{Jump: 1, Next: []int{1}}, x}}}}, impl.Unit{Codes: slices.Repeat([]impl.Code{{Regs: 1, Blocks: slices.Repeat([]impl.Block{x}, 160)}}, 4)})
 	}
-	for i, u := range units {
+	return units
+}
+
+// TestUnitsThatAreWrong has units that are not valid, of which each function returns what is told for them.
+func TestUnitsThatAreWrong(t *testing.T) {
+	for i, u := range wrongUnits() {
 		if v, ok := impl.TightUnit(u); ok || len(v.Codes) > 0 || impl.UnitValid(u) || impl.InsCount(u) != -1 || impl.UnitText(u) != "" {
 			t.Errorf("the unit %d, which is not valid, is turned to %v, %v", i, v, ok)
 		}
