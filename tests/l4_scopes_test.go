@@ -839,6 +839,21 @@ func TestScopesOfRandomPrograms(t *testing.T) {
 	}
 }
 
+// wrongPrograms are programs that are not valid.
+func wrongPrograms() []impl.Program {
+	f := fn("f", nil)
+	great := says(1)
+	for range 100000 {
+		great = block(loop(num(1), great...))
+	}
+	return []impl.Program{
+		{}, {Fns: []impl.Fn{}}, {Fns: []impl.Fn{{}}}, program(f, fn("", nil)), program(f, fn("g", nil), fn("h", nil), fn("i", nil), fn("m", nil)), program(fn("let", nil)), program(fn("m", params("a", "b", "c", "d"))), program(fn("m", params("abcde"))), program(fn("m", params(""))),
+		mainOf(says(41)...), mainOf(within(4, say(num(1)))), mainOf(impl.Stmt{}), mainOf(say(num(256))), mainOf(say(variable(""))), mainOf(say(variable("A"))), mainOf(let("do", num(1))), mainOf(set("", num(1))), mainOf(let("a", nots(11, 6))), mainOf(let("a", num(1)), impl.Stmt{Op: 3, Args: []impl.Expr{num(1)}, Name: "a"}),
+		program(f, fn("m", nil, do(call("f")), do(num(1)))), program(f, fn("m", nil, do(call("f", num(1), num(1), num(1), num(1))))), program(f, fn("m", nil, do(call("F")))), program(fn("m", nil, say(withParts(31)))), program(fn("f", nil, impl.Stmt{Op: 9}), fn("m", nil)),
+		ring(1, 5, false), ring(3, 6, false), ring(2, 5, true), mainOf(say(endless(3, 11))), mainOf(great...), {Fns: make([]impl.Fn, 100000)},
+	}
+}
+
 func TestScopesOfProgramsThatAreWrong(t *testing.T) {
 	for _, s := range []string{"fn f(a){back a+1;}fn m(b){let a=f(b);if a{let b=a;say b;}else{put 1,a;}loop b{b=b-1;do f(b);}}"} {
 		codes := map[int]int{}
@@ -849,17 +864,7 @@ func TestScopesOfProgramsThatAreWrong(t *testing.T) {
 			t.Errorf("the changed programs have the codes %v", codes)
 		}
 	}
-	f := fn("f", nil)
-	great := says(1)
-	for range 100000 {
-		great = block(loop(num(1), great...))
-	}
-	for i, p := range []impl.Program{
-		{}, {Fns: []impl.Fn{}}, {Fns: []impl.Fn{{}}}, program(f, fn("", nil)), program(f, fn("g", nil), fn("h", nil), fn("i", nil), fn("m", nil)), program(fn("let", nil)), program(fn("m", params("a", "b", "c", "d"))), program(fn("m", params("abcde"))), program(fn("m", params(""))),
-		mainOf(says(41)...), mainOf(within(4, say(num(1)))), mainOf(impl.Stmt{}), mainOf(say(num(256))), mainOf(say(variable(""))), mainOf(say(variable("A"))), mainOf(let("do", num(1))), mainOf(set("", num(1))), mainOf(let("a", nots(11, 6))), mainOf(let("a", num(1)), impl.Stmt{Op: 3, Args: []impl.Expr{num(1)}, Name: "a"}),
-		program(f, fn("m", nil, do(call("f")), do(num(1)))), program(f, fn("m", nil, do(call("f", num(1), num(1), num(1), num(1))))), program(f, fn("m", nil, do(call("F")))), program(fn("m", nil, say(withParts(31)))), program(fn("f", nil, impl.Stmt{Op: 9}), fn("m", nil)),
-		ring(1, 5, false), ring(3, 6, false), ring(2, 5, true), mainOf(say(endless(3, 11))), mainOf(great...), {Fns: make([]impl.Fn, 100000)},
-	} {
+	for i, p := range wrongPrograms() {
 		if got := impl.CheckProgram(p); got != 1 {
 			t.Errorf("CheckProgram of the program %d, which is not valid, is %d", i, got)
 		}
